@@ -196,6 +196,86 @@ func orders(list []string) [][]string {
 	return all
 }
 
+// CcText tells the words of the map that is made once, and CcRead works its
+// answers out beside it: both must know the same words, each for the same flag.
+func TestToldWordsAndReadWordsAgree(t *testing.T) {
+	flags := []struct {
+		word string
+		said impl.Cc
+	}{
+		{"no-store", impl.Cc{NoStore: true}}, {"no-cache", impl.Cc{NoCache: true}}, {"private", impl.Cc{Private: true}}, {"must-revalidate", impl.Cc{Must: true}},
+	}
+	for _, flag := range flags {
+		checkCc(t, flag.word, flag.said)
+		if got := impl.CcText(flag.said); got != flag.word {
+			t.Errorf("CcText(%#v) = %q, not %q", flag.said, got, flag.word)
+		}
+		if got := impl.CcOf(fieldsOf("cache-control", flag.word)); got != flag.said {
+			t.Errorf("CcOf of %q = %#v", flag.word, got)
+		}
+	}
+	for _, c := range rightCcs() {
+		var want []string
+		for _, flag := range flags {
+			if ccTogether(c, flag.said) == c {
+				want = append(want, flag.word)
+			}
+		}
+		if c.HasAge {
+			want = append(want, "max-age="+strconv.Itoa(c.Age))
+		}
+		told := impl.Split(impl.CcText(c))
+		if !slices.Equal(told, want) {
+			t.Fatalf("CcText(%#v) tells %q, not %q", c, told, want)
+		}
+		var read impl.Cc
+		for _, word := range told {
+			said := impl.CcRead(word)
+			if said == (impl.Cc{}) || ccTogether(c, said) != c {
+				t.Fatalf("CcText(%#v) tells %q, which says %#v", c, word, said)
+			}
+			read = ccTogether(read, said)
+		}
+		if read != c {
+			t.Fatalf("CcText(%#v) tells %q, which say %#v", c, told, read)
+		}
+	}
+}
+
+// ccTogether is for an age in one of both, or the same in both.
+func ccTogether(a, b impl.Cc) impl.Cc {
+	return impl.Cc{
+		NoStore: a.NoStore || b.NoStore, NoCache: a.NoCache || b.NoCache, Private: a.Private || b.Private, Must: a.Must || b.Must,
+		HasAge: a.HasAge || b.HasAge, Age: max(a.Age, b.Age),
+	}
+}
+
+func TestWordsThatAreNoneAreNeitherReadNorTold(t *testing.T) {
+	none := []string{"", "public", "no", "no-", "store", "no-stor", "no-stores", "No-Store2", "no_cache", "no-cach", "privat", "privates", "must", "revalidate", "must-revalidat", "must-revalidates", "immutable", "x", "max-age", "\xff", "no-store\x00"}
+	told := make(map[string]int)
+	for _, c := range rightCcs() {
+		for _, word := range impl.Split(impl.CcText(c)) {
+			told[word]++
+		}
+	}
+	for _, word := range none {
+		checkCc(t, word, impl.Cc{})
+		checkCc(t, strings.ToUpper(word), impl.Cc{})
+		if told[word] > 0 {
+			t.Errorf("CcText tells %q, which says nothing", word)
+		}
+	}
+	// Each flag stands in half of the sets.
+	for _, word := range []string{"no-store", "no-cache", "private", "must-revalidate"} {
+		if told[word] != len(rightCcs())/2 {
+			t.Errorf("CcText tells %q %d times", word, told[word])
+		}
+	}
+	if got := impl.CcText(impl.Cc{}); got != "" {
+		t.Errorf("CcText of nothing tells %q", got)
+	}
+}
+
 func TestCcReadOfBlanksAndCommas(t *testing.T) {
 	for _, value := range []string{"", " ", ",", ",,,", " , ,, ", strings.Repeat(" ,", 300), strings.Repeat(" ", 300)} {
 		checkCc(t, value, impl.Cc{})
