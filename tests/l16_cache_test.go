@@ -1329,6 +1329,21 @@ func deedRow(number uint32, n int) []impl.Deed {
 	return list
 }
 
+// eachShortRun sees a cache, and what becomes of it by each row of at most left
+// of these deeds, each of another client.
+func eachShortRun(c impl.Cache, deeds []impl.Deed, left int, see func(c impl.Cache, left int)) {
+	see(c, left)
+	if left == 0 {
+		return
+	}
+	for _, d := range deeds {
+		d.Client = left
+		if after, code := impl.CacheDo(c, d); code == impl.CdDone {
+			eachShortRun(after, deeds, left-1, see)
+		}
+	}
+}
+
 func TestCacheRunInTwoHalves(t *testing.T) {
 	for number := range uint32(20) {
 		list := deedRow(number, 120)

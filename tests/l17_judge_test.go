@@ -1132,26 +1132,16 @@ func TestPromise17OfOneClient(t *testing.T) {
 func TestPromise17OverAllShortRuns(t *testing.T) {
 	q, other := asksIn("/a", "de"), asksIn("/a", "en")
 	deeds := []impl.Deed{askDeed(0, q), askDeed(0, other), replyDeed(0, speaks("/a", "de", 1).Resp), replyDeed(0, keepable(3)), replyDeed(0, same304()), tickDeed(2), tickDeed(5), askDeed(0, purges("/a")), crashDeed(), crashDeed(true, true)}
-	var goOn func(c impl.Cache, depth int)
-	goOn = func(c impl.Cache, depth int) {
-		if !impl.JudgeAll(c) || !impl.JudgeOnce(c) || depth == 1 && verdictByHand(c) != lacks() {
+	see := func(c impl.Cache, left int) {
+		if !impl.JudgeAll(c) || !impl.JudgeOnce(c) || left == 1 && verdictByHand(c) != lacks() {
 			t.Fatalf("%s is judged %+v, by hand %+v", inShort(c), verdictOf(c), verdictByHand(c))
-		}
-		if depth == 0 {
-			return
-		}
-		for _, d := range deeds {
-			d.Client = depth
-			if after, code := impl.CacheDo(c, d); code == impl.CdDone {
-				goOn(after, depth-1)
-			}
 		}
 	}
 	known, _ := impl.CacheRun(impl.CacheNew(), []impl.Deed{askDeed(90, q), replyDeed(0, speaks("/a", "de", 1).Resp)})
 	old, _ := impl.CacheRun(known, []impl.Deed{syncDeed(), tickDeed(6), askDeed(91, q)})
-	goOn(impl.CacheNew(), 4)
-	goOn(known, 4)
-	goOn(old, 4)
+	for _, c := range []impl.Cache{impl.CacheNew(), known, old} {
+		eachShortRun(c, deeds, 4, see)
+	}
 }
 
 // What was banned is answered with no more, whatever is lost, and the judge

@@ -875,20 +875,7 @@ func TestPromise18EachIsAnswered(t *testing.T) {
 func TestPromise18OverAllShortRuns(t *testing.T) {
 	q, other := asksIn("/a", "de"), asksIn("/a", "en")
 	deeds := []impl.Deed{askDeed(0, q), askDeed(0, other), askDeed(0, posts("/a")), askDeed(0, purges("/a")), replyDeed(0, keepable(3)), replyDeed(1, same304()), failDeed(0), tickDeed(4), crashDeed()}
-	var goOn func(c impl.Cache, depth int)
-	goOn = func(c impl.Cache, depth int) {
-		checkPromise18(t, c)
-		if depth == 0 {
-			return
-		}
-		for _, d := range deeds {
-			d.Client = depth
-			if after, code := impl.CacheDo(c, d); code == impl.CdDone {
-				goOn(after, depth-1)
-			}
-		}
-	}
-	goOn(impl.CacheNew(), 4)
+	eachShortRun(impl.CacheNew(), deeds, 4, func(c impl.Cache, left int) { checkPromise18(t, c) })
 }
 
 // Where there is no room for all, those who wait go on waiting, and nobody is
